@@ -1,0 +1,75 @@
+package tests
+
+import (
+	"slices"
+	"testing"
+)
+
+// hidden is how many numbers withHidden puts behind a list's length.
+const hidden = 3
+
+// withHidden copies list and puts the number rest behind its length, where no
+// function may read or write.
+func withHidden(list []int, rest int) []int {
+	long := slices.Clone(list)
+	for range hidden {
+		long = append(long, rest)
+	}
+	return long[:len(list)]
+}
+
+// checkKept reports where got, made by withHidden(want, rest), was written to.
+func checkKept(t *testing.T, what string, got, want []int, rest int) {
+	t.Helper()
+	if !slices.Equal(got, want) {
+		t.Errorf("%s: the argument became %v, was %v", what, got, want)
+	}
+	for _, number := range got[len(got) : len(got)+hidden] {
+		if number != rest {
+			t.Errorf("%s: wrote %d behind the length of %v", what, number, want)
+		}
+	}
+}
+
+// listsWithHidden is withHidden of each list, and of the list of them, behind
+// whose length stands one list of rest alone.
+func listsWithHidden(lists [][]int, rest int) [][]int {
+	var long [][]int
+	for _, list := range lists {
+		long = append(long, withHidden(list, rest))
+	}
+	return append(long, []int{rest})[:len(lists)]
+}
+
+func checkListsKept(t *testing.T, what string, got, want [][]int, rest int) {
+	t.Helper()
+	for i := range want {
+		checkKept(t, what, got[i], want[i], rest)
+	}
+	if behind := got[:len(got)+1][len(got)]; !slices.Equal(behind, []int{rest}) {
+		t.Errorf("%s: wrote %v behind the length of %v", what, behind, want)
+	}
+}
+
+// checkNoneShared writes to all the memory of each list, up to its capacity,
+// and reports where that shows in another one.
+func checkNoneShared(t *testing.T, what string, lists [][]int) {
+	t.Helper()
+	for i := range lists {
+		whole := lists[i][:cap(lists[i])]
+		for j := range whole {
+			whole[j] = -1 - i
+		}
+	}
+	for i := range lists {
+		for _, number := range lists[i] {
+			if number != -1-i {
+				t.Errorf("%s: lists %d and %d share memory", what, i, -1-number)
+			}
+		}
+	}
+}
+
+func sameLists(a, b [][]int) bool {
+	return slices.EqualFunc(a, b, slices.Equal[[]int])
+}
