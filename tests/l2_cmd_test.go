@@ -80,6 +80,13 @@ func plainTouches(c impl.Cmd) []int {
 	return nil
 }
 
+// plainInterfere tells whether two good commands touch one account.
+func plainInterfere(a, b impl.Cmd) bool {
+	return slices.ContainsFunc(plainTouches(a), func(account int) bool {
+		return slices.Contains(plainTouches(b), account)
+	})
+}
+
 // plainText is the text of a good command.
 func plainText(c impl.Cmd) string {
 	switch c.Kind {
@@ -166,10 +173,7 @@ func TestInterfereIsTouchingOneAccount(t *testing.T) {
 	cmds := someCmds([]int{1, 999}, []int{7})
 	for _, a := range cmds {
 		for _, b := range cmds {
-			want := slices.ContainsFunc(plainTouches(a), func(account int) bool {
-				return slices.Contains(plainTouches(b), account)
-			})
-			if got, ok := impl.Interfere(a, b); got != want || !ok {
+			if got, ok := impl.Interfere(a, b); got != plainInterfere(a, b) || !ok {
 				t.Error("Interfere", a, b, got, ok)
 			}
 		}

@@ -8,9 +8,9 @@ import (
 // hidden is how many numbers withHidden puts behind a list's length.
 const hidden = 3
 
-// withHidden copies list and puts the number rest behind its length, where no
-// function may read or write.
-func withHidden(list []int, rest int) []int {
+// withHidden copies list and puts rest behind its length, where no function may
+// read or write.
+func withHidden[T any](list []T, rest T) []T {
 	long := slices.Clone(list)
 	for range hidden {
 		long = append(long, rest)
@@ -62,7 +62,7 @@ func checkNoneShared(t *testing.T, what string, lists [][]int) {
 		}
 	}
 	for i := range lists {
-		for _, number := range lists[i] {
+		for _, number := range lists[i][:cap(lists[i])] {
 			if number != -1-i {
 				t.Errorf("%s: lists %d and %d share memory", what, i, -1-number)
 			}
