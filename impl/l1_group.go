@@ -67,7 +67,7 @@ func WithoutOnes(n int, gone []int) ([]int, bool) {
 	}
 	var isGone [MaxN]bool
 	for _, one := range gone {
-		if one < 0 || one >= n {
+		if !isReplica(n, one) {
 			return nil, false
 		}
 		isGone[one] = true
@@ -79,6 +79,10 @@ func WithoutOnes(n int, gone []int) ([]int, bool) {
 		}
 	}
 	return left, true
+}
+
+func isReplica(n int, number int) bool {
+	return IsGroup(n) && number >= 0 && number < n
 }
 
 // risingLists yields the rising lists of k numbers below n, for k in 0..n,
