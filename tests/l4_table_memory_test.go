@@ -154,19 +154,7 @@ func (m *tableMemory) addTables(tables ...impl.Table) {
 func (m *tableMemory) check(t *testing.T, what string) {
 	t.Helper()
 	checkNoneShared(t, what, m.numbers)
-	for i, rows := range m.rows {
-		whole := rows[:cap(rows)]
-		for j := range whole {
-			whole[j].Ballot = -1 - i
-		}
-	}
-	for i, rows := range m.rows {
-		for _, r := range rows[:cap(rows)] {
-			if r.Ballot != -1-i {
-				t.Errorf("%s: lists of rows %d and %d share memory", what, i, -1-r.Ballot)
-			}
-		}
-	}
+	checkApart(t, what+", rows", m.rows, func(r *impl.Row) *int { return &r.Ballot })
 	for i, lists := range m.tables {
 		whole := lists[:cap(lists)]
 		for j := range whole {

@@ -51,19 +51,26 @@ func checkListsKept(t *testing.T, what string, got, want [][]int, rest int) {
 	}
 }
 
-// checkNoneShared writes to all the memory of each list, up to its capacity,
-// and reports where that shows in another one.
+// checkNoneShared is checkApart of lists of numbers.
 func checkNoneShared(t *testing.T, what string, lists [][]int) {
 	t.Helper()
-	for i := range lists {
-		whole := lists[i][:cap(lists[i])]
+	checkApart(t, what, lists, func(number *int) *int { return number })
+}
+
+// checkApart writes to all the memory of each list, up to its capacity, and
+// reports where that shows in another one. Of a member it writes one number.
+func checkApart[T any](t *testing.T, what string, lists [][]T, numberOf func(*T) *int) {
+	t.Helper()
+	for i, list := range lists {
+		whole := list[:cap(list)]
 		for j := range whole {
-			whole[j] = -1 - i
+			*numberOf(&whole[j]) = -1 - i
 		}
 	}
-	for i := range lists {
-		for _, number := range lists[i][:cap(lists[i])] {
-			if number != -1-i {
+	for i, list := range lists {
+		whole := list[:cap(list)]
+		for j := range whole {
+			if number := *numberOf(&whole[j]); number != -1-i {
 				t.Errorf("%s: lists %d and %d share memory", what, i, -1-number)
 			}
 		}
