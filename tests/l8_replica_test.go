@@ -80,9 +80,13 @@ func (m *mixer) lead(n, me int, at instance, of impl.Row) impl.Lead {
 	return prepLead(at, ballot, seen, who...)
 }
 
-// replica is a good one with rows and leads of all kinds.
 func (m *mixer) replica(n int) impl.Replica {
-	r := replica(m.next(n), table(n))
+	return m.replicaOf(n, m.next(n))
+}
+
+// replicaOf is a good one with rows and leads of all kinds.
+func (m *mixer) replicaOf(n, me int) impl.Replica {
+	r := replica(me, table(n))
 	for rep := range n {
 		for range m.next(impl.MaxRow + 1) {
 			r.Table.Rows[rep] = append(r.Table.Rows[rep], m.row(n, 8))
