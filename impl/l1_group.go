@@ -85,6 +85,17 @@ func isReplica(n int, number int) bool {
 	return IsGroup(n) && number >= 0 && number < n
 }
 
+func areRisingReplicas(n int, list []int) bool {
+	last := -1
+	for _, rep := range list {
+		if rep <= last || !isReplica(n, rep) {
+			return false
+		}
+		last = rep
+	}
+	return true
+}
+
 // risingLists yields the rising lists of k numbers below n, for k in 0..n,
 // themselves rising. Each is a copy, so that whoever ranges may keep it.
 func risingLists(n int, k int) iter.Seq[[]int] {
