@@ -19,14 +19,14 @@ func withHidden[T any](list []T, rest T) []T {
 }
 
 // checkKept reports where got, made by withHidden(want, rest), was written to.
-func checkKept(t *testing.T, what string, got, want []int, rest int) {
+func checkKept[T comparable](t *testing.T, what string, got, want []T, rest T) {
 	t.Helper()
 	if !slices.Equal(got, want) {
 		t.Errorf("%s: the argument became %v, was %v", what, got, want)
 	}
-	for _, number := range got[len(got) : len(got)+hidden] {
-		if number != rest {
-			t.Errorf("%s: wrote %d behind the length of %v", what, number, want)
+	for _, one := range got[len(got) : len(got)+hidden] {
+		if one != rest {
+			t.Errorf("%s: wrote %v behind the length of %v", what, one, want)
 		}
 	}
 }
