@@ -13,6 +13,7 @@ type safeRun struct {
 
 func newSafeRun(t *testing.T, n int) safeRun {
 	r := safeRun{newPlayer(t, n)}
+	r.look = r.checkSafe
 	r.checkSafe()
 	return r
 }
@@ -25,24 +26,6 @@ func (r safeRun) checkSafe() {
 	checkOrdersAgree(r.t, "a state that is reached", r.x, true)
 }
 
-func (r safeRun) try(s impl.Step) bool {
-	r.t.Helper()
-	isDone := r.player.try(s)
-	if isDone {
-		r.checkSafe()
-	}
-	return isDone
-}
-
-func (r safeRun) must(steps ...impl.Step) {
-	r.t.Helper()
-	for _, s := range steps {
-		if !r.try(s) {
-			r.t.Fatal("not done:", s, linesOf(r.x))
-		}
-	}
-}
-
 // each does a step of each message of a kind to some replicas that is in the
 // bag, the last first.
 func (r safeRun) each(step, kind int, to ...int) {
@@ -51,14 +34,6 @@ func (r safeRun) each(step, kind int, to ...int) {
 		if m := r.x.Bag[at]; m.Kind == kind && maskOf(to...)&maskOf(m.To) != 0 {
 			r.must(stepAt(step, at))
 		}
-	}
-}
-
-// takeAll takes the first message again and again.
-func (r safeRun) takeAll() {
-	r.t.Helper()
-	for len(r.x.Bag) > 0 {
-		r.must(stepAt(impl.NtTake, 0))
 	}
 }
 

@@ -15,6 +15,8 @@ type player struct {
 	x     impl.Net
 	steps []impl.Step
 	done  []bool
+	// look, if there is one, is called after each step that is done.
+	look func()
 }
 
 func newPlayer(t *testing.T, n int) *player {
@@ -42,6 +44,9 @@ func (p *player) try(s impl.Step) bool {
 		}
 	}
 	p.steps, p.done = append(p.steps, s), append(p.done, ok)
+	if ok && p.look != nil {
+		p.look()
+	}
 	return ok
 }
 
@@ -51,6 +56,14 @@ func (p *player) must(steps ...impl.Step) {
 		if !p.try(s) {
 			p.t.Fatal("not done:", s, linesOf(p.x))
 		}
+	}
+}
+
+// takeAll takes the first message again and again.
+func (p *player) takeAll() {
+	p.t.Helper()
+	for len(p.x.Bag) > 0 {
+		p.must(stepAt(impl.NtTake, 0))
 	}
 }
 
