@@ -111,31 +111,37 @@ func TestPromise22Chapter10OfFewChanges(t *testing.T) {
 	}
 }
 
+// lengthChanges makes lists of a net nil, cut off or too long. Replica 1 has a
+// row of 0.1.
+func lengthChanges(n int) []func(*impl.Net) {
+	return []func(*impl.Net){
+		func(x *impl.Net) { x.Reps = x.Reps[:n-1] },
+		func(x *impl.Net) { x.Reps = append(x.Reps, x.Reps[0]) },
+		func(x *impl.Net) { x.Reps = nil },
+		func(x *impl.Net) { x.Asked = nil },
+		func(x *impl.Net) { x.Asked = []impl.Asked{} },
+		func(x *impl.Net) { x.Asked = slices.Repeat(x.Asked, 500) },
+		func(x *impl.Net) { x.Bag = slices.Repeat(fullMsgs(n), 500) },
+		func(x *impl.Net) { x.Reps[1].Table.Rows = nil },
+		func(x *impl.Net) { x.Reps[1].Table.Rows = x.Reps[1].Table.Rows[:n-1] },
+		func(x *impl.Net) { x.Reps[1].Table.Rows = append(x.Reps[1].Table.Rows, nil) },
+		func(x *impl.Net) { x.Reps[1].Table.Rows[0] = nil },
+		func(x *impl.Net) { x.Reps[1].Table.Rows[0] = []impl.Row{} },
+		func(x *impl.Net) { x.Reps[1].Table.Rows[0] = slices.Repeat(x.Reps[1].Table.Rows[0], 6) },
+		func(x *impl.Net) { x.Reps[1].Table.Rows[0] = slices.Repeat(x.Reps[1].Table.Rows[0], 7) },
+		func(x *impl.Net) { x.Reps[1].Table.Rows[0][0].Attr.Deps = nil },
+		func(x *impl.Net) { x.Reps[1].Table.Rows[0][0].Attr.Deps = noDeps(n - 1) },
+		func(x *impl.Net) { x.Reps[1].Table.Rows[0][0].Attr.Deps = noDeps(n + 1) },
+		func(x *impl.Net) { x.Reps[1].Leads = make([]impl.Lead, 40) },
+	}
+}
+
 // TestPromise22Chapter10OfListLengths is of lists that are nil, cut off or too
 // long.
 func TestPromise22Chapter10OfListLengths(t *testing.T) {
 	for _, n := range groups {
 		from := safeArgs{unsafeNets(n)[codeSafe][2], numbersBelow(n)}
-		for _, change := range []func(*impl.Net){
-			func(x *impl.Net) { x.Reps = x.Reps[:n-1] },
-			func(x *impl.Net) { x.Reps = append(x.Reps, x.Reps[0]) },
-			func(x *impl.Net) { x.Reps = nil },
-			func(x *impl.Net) { x.Asked = nil },
-			func(x *impl.Net) { x.Asked = []impl.Asked{} },
-			func(x *impl.Net) { x.Asked = slices.Repeat(x.Asked, 500) },
-			func(x *impl.Net) { x.Bag = slices.Repeat(fullMsgs(n), 500) },
-			func(x *impl.Net) { x.Reps[1].Table.Rows = nil },
-			func(x *impl.Net) { x.Reps[1].Table.Rows = x.Reps[1].Table.Rows[:n-1] },
-			func(x *impl.Net) { x.Reps[1].Table.Rows = append(x.Reps[1].Table.Rows, nil) },
-			func(x *impl.Net) { x.Reps[1].Table.Rows[0] = nil },
-			func(x *impl.Net) { x.Reps[1].Table.Rows[0] = []impl.Row{} },
-			func(x *impl.Net) { x.Reps[1].Table.Rows[0] = slices.Repeat(x.Reps[1].Table.Rows[0], 6) },
-			func(x *impl.Net) { x.Reps[1].Table.Rows[0] = slices.Repeat(x.Reps[1].Table.Rows[0], 7) },
-			func(x *impl.Net) { x.Reps[1].Table.Rows[0][0].Attr.Deps = nil },
-			func(x *impl.Net) { x.Reps[1].Table.Rows[0][0].Attr.Deps = noDeps(n - 1) },
-			func(x *impl.Net) { x.Reps[1].Table.Rows[0][0].Attr.Deps = noDeps(n + 1) },
-			func(x *impl.Net) { x.Reps[1].Leads = make([]impl.Lead, 40) },
-		} {
+		for _, change := range lengthChanges(n) {
 			a := from.clone()
 			change(&a.x)
 			checkSafeAnswers(t, a)
@@ -143,16 +149,21 @@ func TestPromise22Chapter10OfListLengths(t *testing.T) {
 	}
 }
 
+// rowBehind is one of a few rows to stand behind the length of a list of a net:
+// each would show in an answer, or make the net a bad one.
+func rowBehind(x impl.Net, i int) impl.Row {
+	n := len(x.Reps) % 8
+	return []impl.Row{
+		{Ballot: 88, State: impl.RwCom, Vote: 88, Cmd: move(1, 0, 1, 1), Attr: attr(999, slices.Repeat([]int{impl.MaxRow}, n)...)},
+		{Ballot: 99, State: impl.RwPre, Cmd: move(2, 2, 3, 1), Attr: attr(1, make([]int, n)...)},
+		{Ballot: -1},
+	}[i%3]
+}
+
 func TestPromise22Chapter10KeepsArguments(t *testing.T) {
 	for i, a := range append(someSafeArgs(80), badSafeArgs(100)...) {
 		plain, want := a.clone(), a.answers()
-		n := len(a.x.Reps) % 8
-		behinds := []impl.Row{
-			{Ballot: 88, State: impl.RwCom, Vote: 88, Cmd: move(1, 0, 1, 1), Attr: attr(999, slices.Repeat([]int{impl.MaxRow}, n)...)},
-			{Ballot: 99, State: impl.RwPre, Cmd: move(2, 2, 3, 1), Attr: attr(1, make([]int, n)...)},
-			{Ballot: -1},
-		}
-		behind, rest := behinds[i%3], i%4-1
+		behind, rest := rowBehind(a.x, i), i%4-1
 		long := safeArgs{netWithHidden(a.x, rest, behind), withHidden(a.members, rest)}
 		if got := long.answers(); !got.same(want) {
 			t.Error("reads behind a length:", a, got, "not", want)

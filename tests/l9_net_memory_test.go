@@ -336,27 +336,33 @@ func TestPromise22Chapter9IsNewMemory(t *testing.T) {
 	}
 }
 
+// checkNetBehindIsZero reports what a net hands out behind a list's length.
+func checkNetBehindIsZero(t *testing.T, x impl.Net) {
+	t.Helper()
+	for _, r := range x.Reps {
+		checkBehindIsZero(t, r)
+	}
+	for _, r := range x.Reps[len(x.Reps):cap(x.Reps)] {
+		if !sameReplica(r, impl.Replica{}) {
+			t.Error("a replica behind the length of the replicas:", r)
+		}
+	}
+	for _, m := range x.Bag[len(x.Bag):cap(x.Bag)] {
+		if !isZeroMsg(m) {
+			t.Error("a message behind the length of the bag:", m)
+		}
+	}
+	for _, one := range x.Asked[len(x.Asked):cap(x.Asked)] {
+		if one != (impl.Asked{}) {
+			t.Error("behind the length of what was asked:", one)
+		}
+	}
+}
+
 func TestPromise22Chapter9HandsOutNothingBehindALength(t *testing.T) {
 	for _, a := range someNetArgs(150) {
 		for _, x := range a.answers().nets {
-			for _, r := range x.Reps {
-				checkBehindIsZero(t, r)
-			}
-			for _, r := range x.Reps[len(x.Reps):cap(x.Reps)] {
-				if !sameReplica(r, impl.Replica{}) {
-					t.Error("a replica behind the length of the replicas:", r)
-				}
-			}
-			for _, m := range x.Bag[len(x.Bag):cap(x.Bag)] {
-				if !isZeroMsg(m) {
-					t.Error("a message behind the length of the bag:", m)
-				}
-			}
-			for _, one := range x.Asked[len(x.Asked):cap(x.Asked)] {
-				if one != (impl.Asked{}) {
-					t.Error("behind the length of what was asked:", one)
-				}
-			}
+			checkNetBehindIsZero(t, x)
 		}
 	}
 }
